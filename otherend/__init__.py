@@ -1,0 +1,1 @@
+"""A line and its other end."""

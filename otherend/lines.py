@@ -1,0 +1,109 @@
+"""Lines of points, and the ends that they lead to.
+
+A list l holds two numbers for each point: which point it says is next, and which one before it.
+As in l, a point that may be missing is told here as one more than its number, with 0 for none.
+"""
+
+MOST_POINTS = 400
+
+LIST_REFUSED = -22
+POINT_REFUSED = -2
+END_REFUSED = -33
+
+
+def ends(l):
+    """How many ends there are, then these, rising."""
+    if not list_fits(l):
+        return [LIST_REFUSED]
+    found = [point for point in range(count_points(l)) if is_end(point, l)]
+    return [len(found)] + found
+
+
+def other(v, l):
+    """The other end of end v, then how many steps lead there."""
+    refusal = refusal_of_end(v, l)
+    if refusal != 0:
+        return [refusal]
+    points = points_from_end(v, l)
+    return [points[-1], len(points) - 1]
+
+
+def count_points(l):
+    return len(l) // 2
+
+
+def list_fits(l):
+    if len(l) % 2 != 0 or count_points(l) > MOST_POINTS:
+        return False
+    # A number is one more than its point, so the count of points itself is still within them.
+    return all([number <= count_points(l) for number in l])
+
+
+def refusal_of_point(v, l):
+    """The refusal that is due where a point is asked for, or 0."""
+    if not list_fits(l):
+        return LIST_REFUSED
+    if v >= count_points(l):
+        return POINT_REFUSED
+    return 0
+
+
+def refusal_of_end(v, l):
+    """The refusal that is due where an end is asked for, or 0."""
+    refusal = refusal_of_point(v, l)
+    # Only of a point that is there can it be asked whether it is an end.
+    if refusal == 0 and not is_end(v, l):
+        return END_REFUSED
+    return refusal
+
+
+def said_next(v, l):
+    return l[2 * v]
+
+
+def said_before(v, l):
+    return l[2 * v + 1]
+
+
+def step_on(v, l):
+    """One more than the point to which a step leads from v, or 0."""
+    there = said_next(v, l)
+    if there != 0 and said_before(there - 1, l) == v + 1:
+        return there
+    return 0
+
+
+def step_back(v, l):
+    """One more than the point from which a step leads to v, or 0."""
+    there = said_before(v, l)
+    if there != 0 and said_next(there - 1, l) == v + 1:
+        return there
+    return 0
+
+
+def begins_at(v, l):
+    return step_on(v, l) != 0 and step_back(v, l) == 0
+
+
+def stops_at(v, l):
+    return step_on(v, l) == 0 and step_back(v, l) != 0
+
+
+def is_end(v, l):
+    return begins_at(v, l) or stops_at(v, l)
+
+
+def step_along(v, l, onward):
+    return step_on(v, l) if onward else step_back(v, l)
+
+
+def points_from_end(v, l):
+    """The points of a line, from its end v to its other end."""
+    onward = begins_at(v, l)
+    points = [v]
+    there = step_along(v, l, onward)
+    # To each point at most one step leads, so from an end no point comes twice and this stops.
+    while there != 0:
+        points.append(there - 1)
+        there = step_along(there - 1, l, onward)
+    return points

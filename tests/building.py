@@ -1,0 +1,69 @@
+"""Lists for the tests, and what the document's words say of them, told another way than the package does."""
+
+import itertools
+
+LARGEST = 4294967295
+
+
+class Untouchable(list):
+    """A list that fails the moment anything tries to change it, even for a while."""
+
+
+def refuse_change(*args, **kwargs):
+    raise AssertionError("the list that was handed in was changed")
+
+
+for method in ("__setitem__", "__delitem__", "__iadd__", "__imul__", "append", "clear", "extend",
+               "insert", "pop", "remove", "reverse", "sort"):
+    setattr(Untouchable, method, refuse_change)
+
+
+def told(count, *paths):
+    """A list of count points where steps lead along each path; a path that ends where it began is a round."""
+    numbers = [0] * (2 * count)
+    for path in paths:
+        for here, there in zip(path, path[1:]):
+            numbers[2 * here] = there + 1
+            numbers[2 * there + 1] = here + 1
+    return numbers
+
+
+def all_lists(count):
+    """Every list of so many points that isn't refused."""
+    return [list(numbers) for numbers in itertools.product(range(count + 1), repeat=2 * count)]
+
+
+def steps_of(numbers):
+    """Every step, as a pair of points: found by trying all pairs."""
+    points = range(len(numbers) // 2)
+    return {(a, b) for a in points for b in points
+            if numbers[2 * a] == b + 1 and numbers[2 * b + 1] == a + 1}
+
+
+def beginnings_of(numbers):
+    steps = steps_of(numbers)
+    return {a for a, b in steps} - {b for a, b in steps}
+
+
+def stops_of(numbers):
+    steps = steps_of(numbers)
+    return {b for a, b in steps} - {a for a, b in steps}
+
+
+def ends_of(numbers):
+    found = sorted(beginnings_of(numbers) | stops_of(numbers))
+    return [len(found)] + found
+
+
+def other_of(point, numbers):
+    """The answer for a point that is there."""
+    pairs = dict(steps_of(numbers))
+    if point in stops_of(numbers):
+        pairs = {b: a for a, b in pairs.items()}
+    elif point not in beginnings_of(numbers):
+        return [-33]
+    count = 0
+    while point in pairs:
+        point = pairs[point]
+        count += 1
+    return [point, count]
