@@ -10,6 +10,10 @@ LIST_REFUSED = -22
 POINT_REFUSED = -2
 END_REFUSED = -33
 
+ALONE = 0
+ON_LINE = 1
+ON_ROUND = 2
+
 
 def ends(l):
     """How many ends there are, then these, rising."""
@@ -26,6 +30,25 @@ def other(v, l):
         return [refusal]
     points = points_from_end(v, l)
     return [points[-1], len(points) - 1]
+
+
+def line(v, l):
+    """How many points, then the line from end v to its other end."""
+    refusal = refusal_of_end(v, l)
+    if refusal != 0:
+        return [refusal]
+    points = points_from_end(v, l)
+    return [len(points)] + points
+
+
+def kind(v, l):
+    """Whether point v is alone, on a line, or on a round."""
+    refusal = refusal_of_point(v, l)
+    if refusal != 0:
+        return [refusal]
+    if is_alone(v, l):
+        return [ALONE]
+    return [ON_ROUND if is_on_round(v, l) else ON_LINE]
 
 
 def count_points(l):
@@ -93,17 +116,31 @@ def is_end(v, l):
     return begins_at(v, l) or stops_at(v, l)
 
 
+def is_alone(v, l):
+    return step_on(v, l) == 0 and step_back(v, l) == 0
+
+
+def is_on_round(v, l):
+    last = points_along(v, l, True)[-1]
+    # A step that leads on from the last point can only lead to v.
+    return step_on(last, l) != 0
+
+
 def step_along(v, l, onward):
     return step_on(v, l) if onward else step_back(v, l)
 
 
-def points_from_end(v, l):
-    """The points of a line, from its end v to its other end."""
-    onward = begins_at(v, l)
+def points_along(v, l, onward):
+    """The points from v, on or back, till no step leads further or v comes again."""
     points = [v]
     there = step_along(v, l, onward)
-    # To each point at most one step leads, so from an end no point comes twice and this stops.
-    while there != 0:
+    # To and from each point at most one step leads, so no point but v can come again and this stops.
+    while there != 0 and there != v + 1:
         points.append(there - 1)
         there = step_along(there - 1, l, onward)
     return points
+
+
+def points_from_end(v, l):
+    """The points of a line, from its end v to its other end."""
+    return points_along(v, l, begins_at(v, l))

@@ -1,6 +1,8 @@
 """Lists for the tests, and what the document's words say of them, told another way than the package does."""
 
+import inspect
 import itertools
+import sys
 
 LARGEST = 4294967295
 
@@ -16,6 +18,16 @@ def refuse_change(*args, **kwargs):
 for method in ("__setitem__", "__delitem__", "__iadd__", "__imul__", "append", "clear", "extend",
                "insert", "pop", "remove", "reverse", "sort"):
     setattr(Untouchable, method, refuse_change)
+
+
+def with_few_calls_nested(action):
+    """What the action gives back; it fails if it nests calls as deep as its input is long."""
+    before = sys.getrecursionlimit()
+    sys.setrecursionlimit(len(inspect.stack()) + 50)
+    try:
+        return action()
+    finally:
+        sys.setrecursionlimit(before)
 
 
 def told(count, *paths):
@@ -55,15 +67,33 @@ def ends_of(numbers):
     return [len(found)] + found
 
 
-def other_of(point, numbers):
+def line_of(point, numbers):
     """The answer for a point that is there."""
     pairs = dict(steps_of(numbers))
     if point in stops_of(numbers):
         pairs = {b: a for a, b in pairs.items()}
     elif point not in beginnings_of(numbers):
         return [-33]
-    count = 0
-    while point in pairs:
-        point = pairs[point]
-        count += 1
-    return [point, count]
+    path = [point]
+    while path[-1] in pairs:
+        path.append(pairs[path[-1]])
+    return [len(path)] + path
+
+
+def other_of(point, numbers):
+    """The answer for a point that is there."""
+    answer = line_of(point, numbers)
+    return answer if answer == [-33] else [answer[-1], answer[0] - 1]
+
+
+def kind_of(point, numbers):
+    """The answer for a point that is there: found by joining steps into longer ways till none is new."""
+    steps = steps_of(numbers)
+    if all(point not in pair for pair in steps):
+        return [0]
+    ways = set(steps)
+    longer = ways | {(a, d) for a, b in ways for c, d in steps if b == c}
+    while longer != ways:
+        ways = longer
+        longer = ways | {(a, d) for a, b in ways for c, d in steps if b == c}
+    return [2] if (point, point) in ways else [1]

@@ -37,6 +37,16 @@ def nodes(text):
     return list(ast.walk(ast.parse(text)))
 
 
+def every_sort_of_answer():
+    # 0 -> 1 -> 2, 3 alone, 4 a round; then no such point, no list that fits, and no points.
+    line_and_round = [2, 0, 3, 1, 0, 2, 0, 0, 5, 5]
+    answers = [lines.ends(l) for l in (line_and_round, [0], [])]
+    for call in (lines.other, lines.line, lines.kind):
+        answers += [call(v, line_and_round) for v in range(6)]
+        answers += [call(0, [0]), call(0, [])]
+    return answers
+
+
 class Form(unittest.TestCase):
     def test_files(self):
         found = sorted(path.name for path in FOLDER.iterdir() if path.name != "__pycache__")
@@ -96,13 +106,11 @@ class Form(unittest.TestCase):
 class Interface(unittest.TestCase):
     def test_arguments(self):
         self.assertEqual(str(inspect.signature(lines.ends)), "(l)")
-        self.assertEqual(str(inspect.signature(lines.other)), "(v, l)")
+        for call in (lines.other, lines.line, lines.kind):
+            self.assertEqual(str(inspect.signature(call)), "(v, l)")
 
     def test_kinds(self):
-        line = [2, 0, 3, 1, 0, 2]
-        answers = [lines.ends([]), lines.ends(line), lines.ends([0]), lines.other(0, line), lines.other(2, line),
-                   lines.other(1, line), lines.other(3, line), lines.other(0, [0])]
-        for answer in answers:
+        for answer in every_sort_of_answer():
             self.assertIs(answer.__class__, list)
             for number in answer:
                 self.assertIs(number.__class__, int)
@@ -110,10 +118,7 @@ class Interface(unittest.TestCase):
     def test_nothing_is_printed(self):
         printed = io.StringIO()
         with contextlib.redirect_stdout(printed), contextlib.redirect_stderr(printed):
-            lines.ends([2, 0, 0, 1])
-            lines.ends([0])
-            lines.other(0, [2, 0, 0, 1])
-            lines.other(2, [2, 0, 0, 1])
+            every_sort_of_answer()
         self.assertEqual(printed.getvalue(), "")
 
 

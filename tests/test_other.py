@@ -1,8 +1,6 @@
-import inspect
-import sys
 import unittest
 
-from building import LARGEST, Untouchable, all_lists, beginnings_of, other_of, stops_of, told
+from building import Untouchable, all_lists, beginnings_of, other_of, stops_of, told, with_few_calls_nested
 from otherend.lines import ends, other
 
 
@@ -59,88 +57,6 @@ class Corners(unittest.TestCase):
         self.assertEqual(other(1, [2, 0, 3, 1, 3, 3]), [0, 1])
 
 
-class ListRefused(unittest.TestCase):
-    def test_odd_length(self):
-        for numbers in ([0], [0, 0, 0], [2, 0, 0, 1, 0], [0] * 799):
-            self.assertEqual(other(0, numbers), [-22])
-
-    def test_a_number_beyond_the_points(self):
-        # The line 0 -> 1 is whole; what is beyond is said by point 2.
-        for beyond in (4, 5, LARGEST):
-            self.assertEqual(other(0, [2, 0, 0, 1, beyond, 0]), [-22])
-            self.assertEqual(other(0, [2, 0, 0, 1, 0, beyond]), [-22])
-
-    def test_a_number_beyond_the_points_said_by_v(self):
-        for beyond in (3, LARGEST):
-            self.assertEqual(other(0, [beyond, 0, 0, 0]), [-22])
-            self.assertEqual(other(0, [0, beyond, 0, 0]), [-22])
-
-    def test_the_largest_number_within_the_points(self):
-        self.assertEqual(other(0, [2, 0, 0, 1, 3, 0]), [1, 1])
-        self.assertEqual(other(0, [2, 0, 0, 1, 0, 3]), [1, 1])
-
-    def test_more_than_400_points(self):
-        for count in (401, 500):
-            self.assertEqual(other(0, told(count, [0, 1])), [-22])
-
-
-class PointRefused(unittest.TestCase):
-    def test_just_beyond(self):
-        self.assertEqual(other(2, [2, 0, 0, 1]), [-2])
-        self.assertEqual(other(400, told(400, [0, 399])), [-2])
-
-    def test_large(self):
-        for v in (3, 4, 5, 400, LARGEST):
-            self.assertEqual(other(v, [2, 0, 0, 1]), [-2])
-
-    def test_no_points(self):
-        for v in (0, 1, 399, LARGEST):
-            self.assertEqual(other(v, []), [-2])
-
-
-class EndRefused(unittest.TestCase):
-    def test_alone(self):
-        self.assertEqual(other(0, [0, 0]), [-33])
-        self.assertEqual(other(1, told(3, [0, 2])), [-33])
-
-    def test_a_point_that_says_itself_one_way(self):
-        self.assertEqual(other(0, [1, 0]), [-33])
-        self.assertEqual(other(0, [0, 1]), [-33])
-
-    def test_two_that_do_not_say_the_same(self):
-        for numbers in ([2, 0, 0, 0], [0, 0, 0, 1], [2, 0, 1, 0], [0, 2, 0, 1]):
-            self.assertEqual(other(0, numbers), [-33])
-            self.assertEqual(other(1, numbers), [-33])
-
-    def test_within_a_line(self):
-        for v in (1, 2):
-            self.assertEqual(other(v, told(4, [0, 1, 2, 3])), [-33])
-
-    def test_on_a_round(self):
-        self.assertEqual(other(0, [1, 1]), [-33])
-        for v in (0, 1):
-            self.assertEqual(other(v, [2, 2, 1, 1]), [-33])
-        for v in (1, 2, 3):
-            self.assertEqual(other(v, told(5, [4, 0], [1, 2, 3, 1])), [-33])
-
-
-class OrderOfRefusals(unittest.TestCase):
-    def test_the_list_ahead_of_the_point(self):
-        for v in (1, 2, LARGEST):
-            self.assertEqual(other(v, [0]), [-22])
-            self.assertEqual(other(v, [2, 0]), [-22])
-            self.assertEqual(other(v, [0, LARGEST]), [-22])
-
-    def test_the_list_ahead_of_the_end(self):
-        self.assertEqual(other(0, [0, 0, 0]), [-22])
-        self.assertEqual(other(0, [0, 0, 3, 0]), [-22])
-
-    def test_the_point_ahead_of_the_end(self):
-        for v in (1, LARGEST):
-            self.assertEqual(other(v, [0, 0]), [-2])
-            self.assertEqual(other(v, [1, 1]), [-2])
-
-
 class Largest(unittest.TestCase):
     def test_one_line_over_all_points(self):
         numbers = told(400, list(range(400)))
@@ -161,12 +77,7 @@ class Largest(unittest.TestCase):
 
     def test_by_loops(self):
         numbers = told(400, list(range(400)))
-        before = sys.getrecursionlimit()
-        sys.setrecursionlimit(len(inspect.stack()) + 50)
-        try:
-            answers = [other(0, numbers), other(399, numbers), ends(numbers)]
-        finally:
-            sys.setrecursionlimit(before)
+        answers = with_few_calls_nested(lambda: [other(0, numbers), other(399, numbers), ends(numbers)])
         self.assertEqual(answers, [[399, 399], [0, 399], [2, 0, 399]])
 
 
