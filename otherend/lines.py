@@ -1,4 +1,4 @@
-"""Lines of points, and the ends that they lead to.
+"""Lines of points, the ends that they lead to, and the rounds that lead to none.
 
 A list l holds two numbers for each point: which point it says is next, and which one before it.
 As in l, a point that may be missing is told here as one more than its number, with 0 for none.
@@ -8,7 +8,7 @@ MOST_POINTS = 400
 
 LIST_REFUSED = -22
 POINT_REFUSED = -2
-END_REFUSED = -33
+PLACE_REFUSED = -33
 
 ALONE = 0
 ON_LINE = 1
@@ -51,6 +51,23 @@ def kind(v, l):
     return [ON_ROUND if is_on_round(v, l) else ON_LINE]
 
 
+def rounds(l):
+    """How many rounds there are, then the least point of each, rising."""
+    if not list_fits(l):
+        return [LIST_REFUSED]
+    found = least_of_rounds(l)
+    return [len(found)] + found
+
+
+def round_of(v, l):
+    """How many points, then the round from point v on."""
+    refusal = refusal_of_round(v, l)
+    if refusal != 0:
+        return [refusal]
+    points = points_along(v, l, True)
+    return [len(points)] + points
+
+
 def count_points(l):
     return len(l) // 2
 
@@ -76,7 +93,15 @@ def refusal_of_end(v, l):
     refusal = refusal_of_point(v, l)
     # Only of a point that is there can it be asked whether it is an end.
     if refusal == 0 and not is_end(v, l):
-        return END_REFUSED
+        return PLACE_REFUSED
+    return refusal
+
+
+def refusal_of_round(v, l):
+    """The refusal that is due where a point on a round is asked for, or 0."""
+    refusal = refusal_of_point(v, l)
+    if refusal == 0 and not is_on_round(v, l):
+        return PLACE_REFUSED
     return refusal
 
 
@@ -144,3 +169,16 @@ def points_along(v, l, onward):
 def points_from_end(v, l):
     """The points of a line, from its end v to its other end."""
     return points_along(v, l, begins_at(v, l))
+
+
+def least_of_rounds(l):
+    """The least point of each round, rising."""
+    found = []
+    passed = {}
+    for point in range(count_points(l)):
+        if point not in passed and is_on_round(point, l):
+            # Points are tried rising, so the first of a round that is come upon is its least.
+            found.append(point)
+            for there in points_along(point, l, True):
+                passed[there] = True
+    return found

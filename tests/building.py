@@ -86,14 +86,38 @@ def other_of(point, numbers):
     return answer if answer == [-33] else [answer[-1], answer[0] - 1]
 
 
-def kind_of(point, numbers):
-    """The answer for a point that is there: found by joining steps into longer ways till none is new."""
+def ways_of(numbers):
+    """Every pair of points where steps lead from the one to the other: found by joining steps till none is new."""
     steps = steps_of(numbers)
-    if all(point not in pair for pair in steps):
-        return [0]
-    ways = set(steps)
-    longer = ways | {(a, d) for a, b in ways for c, d in steps if b == c}
+    ways = set()
+    longer = set(steps)
     while longer != ways:
         ways = longer
         longer = ways | {(a, d) for a, b in ways for c, d in steps if b == c}
-    return [2] if (point, point) in ways else [1]
+    return ways
+
+
+def kind_of(point, numbers):
+    """The answer for a point that is there."""
+    if all(point not in pair for pair in steps_of(numbers)):
+        return [0]
+    return [2] if (point, point) in ways_of(numbers) else [1]
+
+
+def rounds_of(numbers):
+    ways = ways_of(numbers)
+    # From a point on a round, ways lead to the points of that round and to no others.
+    found = sorted({min(b for a, b in ways if a == point) for point, there in ways if point == there})
+    return [len(found)] + found
+
+
+def round_from(point, numbers):
+    """The answer for a point that is there."""
+    pairs = dict(steps_of(numbers))
+    path = [point]
+    while path[-1] in pairs:
+        there = pairs[path[-1]]
+        if there == point:
+            return [len(path)] + path
+        path.append(there)
+    return [-33]

@@ -14,6 +14,9 @@ from otherend import lines
 
 FOLDER = pathlib.Path(otherend.__file__).parent
 
+OF_A_LIST = (lines.ends, lines.rounds)
+OF_A_POINT = (lines.other, lines.line, lines.kind, lines.round_of)
+
 OWN_NAMES = """len range enumerate zip min max sum abs sorted reversed int str bool list tuple dict set frozenset
 isinstance ord repr any all divmod""".split()
 
@@ -40,8 +43,8 @@ def nodes(text):
 def every_sort_of_answer():
     # 0 -> 1 -> 2, 3 alone, 4 a round; then no such point, no list that fits, and no points.
     line_and_round = [2, 0, 3, 1, 0, 2, 0, 0, 5, 5]
-    answers = [lines.ends(l) for l in (line_and_round, [0], [])]
-    for call in (lines.other, lines.line, lines.kind):
+    answers = [call(l) for call in OF_A_LIST for l in (line_and_round, [0], [])]
+    for call in OF_A_POINT:
         answers += [call(v, line_and_round) for v in range(6)]
         answers += [call(0, [0]), call(0, [])]
     return answers
@@ -105,8 +108,9 @@ class Form(unittest.TestCase):
 
 class Interface(unittest.TestCase):
     def test_arguments(self):
-        self.assertEqual(str(inspect.signature(lines.ends)), "(l)")
-        for call in (lines.other, lines.line, lines.kind):
+        for call in OF_A_LIST:
+            self.assertEqual(str(inspect.signature(call)), "(l)")
+        for call in OF_A_POINT:
             self.assertEqual(str(inspect.signature(call)), "(v, l)")
 
     def test_kinds(self):
