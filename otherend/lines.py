@@ -68,6 +68,14 @@ def round_of(v, l):
     return [len(points)] + points
 
 
+def step(v, l):
+    """One more than the point to which a step leads from v, then than that from which one leads to v; 0 for none."""
+    refusal = refusal_of_point(v, l)
+    if refusal != 0:
+        return [refusal]
+    return [step_on(v, l), step_back(v, l)]
+
+
 def count_points(l):
     return len(l) // 2
 

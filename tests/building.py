@@ -30,6 +30,11 @@ def with_few_calls_nested(action):
         sys.setrecursionlimit(before)
 
 
+def said(count, factor, shift):
+    """A list of count points that say one another as the arithmetic falls out: some answered, most not."""
+    return [(place * place * factor + place * shift + place // 3) % (count + 1) for place in range(2 * count)]
+
+
 def told(count, *paths):
     """A list of count points where steps lead along each path; a path that ends where it began is a round."""
     numbers = [0] * (2 * count)
@@ -45,11 +50,28 @@ def all_lists(count):
     return [list(numbers) for numbers in itertools.product(range(count + 1), repeat=2 * count)]
 
 
+def all_steps(count):
+    """For each way that steps can lead among so many points, a list where nothing else is said."""
+    found = []
+    for leads in itertools.product(range(count + 1), repeat=count):
+        said_once = [there for there in leads if there != 0]
+        if len(said_once) == len(set(said_once)):
+            found.append(told(count, *[[here, there - 1] for here, there in enumerate(leads) if there != 0]))
+    return found
+
+
 def steps_of(numbers):
     """Every step, as a pair of points: found by trying all pairs."""
     points = range(len(numbers) // 2)
     return {(a, b) for a in points for b in points
             if numbers[2 * a] == b + 1 and numbers[2 * b + 1] == a + 1}
+
+
+def step_of(point, numbers):
+    """The answer for a point that is there."""
+    steps = steps_of(numbers)
+    # The sums hold one number at most: to and from each point at most one step leads.
+    return [sum(b + 1 for a, b in steps if a == point), sum(a + 1 for a, b in steps if b == point)]
 
 
 def beginnings_of(numbers):

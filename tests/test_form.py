@@ -15,7 +15,7 @@ from otherend import lines
 FOLDER = pathlib.Path(otherend.__file__).parent
 
 OF_A_LIST = (lines.ends, lines.rounds)
-OF_A_POINT = (lines.other, lines.line, lines.kind, lines.round_of)
+OF_A_POINT = (lines.other, lines.line, lines.kind, lines.round_of, lines.step)
 
 OWN_NAMES = """len range enumerate zip min max sum abs sorted reversed int str bool list tuple dict set frozenset
 isinstance ord repr any all divmod""".split()

@@ -1,16 +1,16 @@
-"""The refusals, and their order, of every call that is handed a point; those of ends and rounds are tested with these."""
+"""The refusals, and their order, of every call that is handed a point; those of ends and rounds stand with these."""
 
 import unittest
 
 from building import LARGEST, told
-from otherend.lines import kind, line, other, round_of
+from otherend.lines import kind, line, other, round_of, step
 
-OF_A_POINT = (other, line, kind, round_of)
+OF_A_POINT = (other, line, kind, round_of, step)
 OF_AN_END = (other, line)
 OF_A_ROUND = (round_of,)
 
-ANSWERED_AT_AN_END = (other, line, kind)
-ANSWERED_ON_A_ROUND = (kind, round_of)
+ANSWERED_AT_AN_END = (other, line, kind, step)
+ANSWERED_ON_A_ROUND = (kind, round_of, step)
 
 
 class Refusing(unittest.TestCase):
@@ -141,6 +141,14 @@ class RoundRefused(Refusing):
         numbers = told(400, list(range(400)))
         for v in (0, 200, 399):
             self.refused(OF_A_ROUND, v, numbers, -33)
+
+
+class NeverRefusedWhereThePointIs(Refusing):
+    def test_kind_and_step_answer_of_every_point(self):
+        # 0 -> 1 -> 2, 3 alone, 4 a round of one, 5 and 6 that don't say the same.
+        numbers = [2, 0, 3, 1, 0, 2, 0, 0, 5, 5, 7, 0, 6, 0]
+        for v in range(7):
+            self.not_refused((kind, step), v, numbers)
 
 
 class OrderOfRefusals(Refusing):
